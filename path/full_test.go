@@ -45,6 +45,7 @@ func TestFullArena(t *testing.T) {
 	m.refuses("no aad", api.ErrArg, u, 0, made.Path, 6, sk, api.MaxTerms)
 	m.refuses("no key", api.ErrNone, u, 0, made.Path, 6, nil, aad)
 	m.refuses("another aad", api.ErrOpen, u, 0, made.Path, 6, sk, secret)
+	m.refuses("a key that is no term", api.ErrOpen, u, 0, made.Path, 6, []api.Secret{{Node: 12, Sk: api.MaxTerms}}, aad)
 	v := copied(u)
 	v[12].Enc = aad
 	m.noPath("no public key", api.ErrArg, v, 0, u[0], aad, 70, aad)

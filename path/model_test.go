@@ -178,7 +178,8 @@ func (m model) made(t []api.TNode, i int, l api.TNode, secret, draw, aad int, fr
 func (m model) taken(made path.Made, i, me int, keys []api.Secret) path.Made {
 	var l []api.Secret
 	for _, s := range keys {
-		if n := made.Tree[s.Node]; n.Kind != api.Blank && n.Enc == m.pub(s.Sk) {
+		_, e := m.a.Node(s.Sk)
+		if n := made.Tree[s.Node]; e == api.OK && n.Kind != api.Blank && n.Enc == m.pub(s.Sk) {
 			l = append(l, s)
 		}
 	}

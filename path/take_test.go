@@ -57,8 +57,13 @@ func TestWhichKey(t *testing.T) {
 		m.refuses("another first", api.ErrOpen, u, 4, made.Path, me, []api.Secret{key(x, 50), key(x, x)}, aad)
 		m.refuses("another one", api.ErrOpen, u, 4, made.Path, me, []api.Secret{key(x, 51)}, aad)
 		m.refuses("the public one", api.ErrOpen, u, 4, made.Path, me, []api.Secret{{Node: x, Sk: u[x].Enc}}, aad)
-		m.refuses("no term", api.ErrArg, u, 4, made.Path, me, []api.Secret{{Node: x, Sk: -1}, key(x, x)}, aad)
-		m.refuses("no term", api.ErrArg, u, 4, made.Path, me, []api.Secret{{Node: x, Sk: m.a.Len() + 100}}, aad)
+		// What is no term does not open, either; the first one of the node counts, and an aad that is no term is told ahead.
+		for _, sk := range []int{-1, -2, m.a.Len(), m.a.Len() + 1, m.a.Len() + 100, 1 << 30, 1 << 40, 1<<32 + m.atom(x), greatest, least} {
+			m.refuses("no term", api.ErrOpen, u, 4, made.Path, me, []api.Secret{{Node: x, Sk: sk}}, aad)
+			m.refuses("no term first", api.ErrOpen, u, 4, made.Path, me, []api.Secret{key(x^1, x), {Node: x, Sk: sk}, key(x, x)}, aad)
+			m.refuses("no term, and no aad", api.ErrArg, u, 4, made.Path, me, []api.Secret{{Node: x, Sk: sk}}, -1)
+			m.takes(u, 4, made, me, []api.Secret{key(x, x), {Node: x, Sk: sk}}, aad)
+		}
 	}
 	// A leaf's key does not do where its parent's is asked for.
 	m.refuses("the leaf's", api.ErrNone, u, 4, made.Path, 0, []api.Secret{key(0, 0), key(1, 1), key(7, 7)}, aad)
